@@ -104,11 +104,11 @@ func readNumber(word string) (n int, ok bool) {
 	return n, e == nil && strconv.Itoa(n) == word
 }
 
-// isLastLine tells whether what is left of a text is a line like the last one, whatever its numbers are.
+// isLastLine tells whether what readEntries left of a text is a line like the last one, whatever its numbers are.
 func isLastLine(rest string) bool {
-	line, behind, ends := strings.Cut(rest, "\n")
+	line, behind, _ := strings.Cut(rest, "\n")
 	row := strings.Split(line, " ")
-	if !ends || behind != "" || len(row) != 3 {
+	if behind != "" || len(row) != 3 {
 		return false
 	}
 	for _, word := range row[1:] {

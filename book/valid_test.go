@@ -84,6 +84,8 @@ func TestValid(t *testing.T) {
 		{func(v *api.Valley) {
 			v.Frame.Sheet.Tests = append(v.Frame.Sheet.Tests, api.Test{Id: 6, Pole: 10, Force: 60000})
 		}, false},
+		// Without props no strength is asked for, but they clash all the same.
+		{func(v *api.Valley) { v.Frame.Props, v.Open, v.Frame.Sheet.Tests[0].Force = nil, false, 162001 }, false}, {func(v *api.Valley) { v.Frame.Props, v.Open, v.Frame.Sheet.Tests[0].Force = nil, false, 162000 }, true},
 		// Props of poles without a grade, and of such that are not fit.
 		{func(v *api.Valley) { v.Frame.Sheet.Poles[0].Walls[2] = 3 }, false}, {func(v *api.Valley) { v.Frame.Sheet.Poles[2].Walls[2] = 3 }, true},
 		{func(v *api.Valley) { v.Frame.Sheet.Poles[0].Soak = 1 }, false}, {func(v *api.Valley) { v.Frame.Sheet.Poles[0].Place = 3 }, false}, {func(v *api.Valley) { v.Soaks = nil }, false}, {func(v *api.Valley) { v.Soaks[0].Hours = 0 }, false},
